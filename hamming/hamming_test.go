@@ -39,7 +39,7 @@ func wantRead(t *testing.T, w, wantN, wantPlace int, wantNo api.Errno) {
 	}
 }
 
-// wordsByHand are the words of 0 to 15, worked out on paper; place 7 is written first.
+// wordsByHand are the words of 0 to 15, written out; place 7 stands first.
 func wordsByHand() [16]int {
 	return [16]int{
 		0b0000000, 0b0000111, 0b0011001, 0b0011110,
